@@ -140,14 +140,18 @@ func isElement(a int) bool {
 	return a >= 0 && a < FieldSize
 }
 
-func isPoly(p []int) bool {
-	if len(p) > maxPoly {
-		return false
-	}
-	for _, a := range p {
+func areElements(l []int) bool {
+	for _, a := range l {
 		if !isElement(a) {
 			return false
 		}
+	}
+	return true
+}
+
+func isPoly(p []int) bool {
+	if len(p) > maxPoly || !areElements(p) {
+		return false
 	}
 	return len(p) == 0 || p[len(p)-1] != 0
 }
