@@ -103,6 +103,11 @@ func (h heldText) stays(t *testing.T) {
 	}
 }
 
+// bytesOf has the text's own memory: it is looked at only.
+func bytesOf(s string) []byte {
+	return unsafe.Slice(unsafe.StringData(s), len(s))
+}
+
 // isNew asks that an answer has no byte in this memory.
 func (h heldText) isNew(t *testing.T, answer string) {
 	t.Helper()
