@@ -17,7 +17,11 @@ func goodJournals() []impl.Journal {
 			l = append(l, journalIn(phase, epoch, stateOf(epoch), stateOf(phase)))
 		}
 	}
-	return append(l, restingJournal(60000, stateOf(1)))
+	l = append(l, restingJournal(60000, stateOf(1)))
+	for phase := range 4 {
+		l = append(l, withRootBody(journalIn(phase, 7, stateOf(2), stateOf(phase)), "a root's Body"))
+	}
+	return l
 }
 
 // mixedJournals have fields of one and of another journal.

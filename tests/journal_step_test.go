@@ -384,7 +384,9 @@ func oddJournals() []impl.Journal {
 			if j.Phase = which[0] % 4; j.Phase > 0 {
 				j.Coming = [][]int{coming, stateOf(3), acked}[which[1]%3]
 			}
-			next := map[int]string{0: slowSector(4, 0, epoch+1, 0, padded(""), "\x00\x00")}
+			body := textOf(max(0, which[2]%34-17), seed)
+			j.Disk.Plate[0] = rootWith(epoch, body)
+			next := map[int]string{0: slowSector(4, 0, epoch+1, len(body), padded(body), "\x00\x00")}
 			if epoch < 60000 {
 				for k, s := range halfFrames(epoch+1, coming) {
 					next[k] = s

@@ -162,7 +162,12 @@ func TestPromise15Halves(t *testing.T) {
 }
 
 func rootFrame(epoch int) string {
-	return slowFrame(impl.Frame{Kind: 4, Epoch: epoch})
+	return rootWith(epoch, "")
+}
+
+// rootWith has a Body, as no journal writes it.
+func rootWith(epoch int, body string) string {
+	return slowFrame(impl.Frame{Kind: 4, Epoch: epoch, Body: body})
 }
 
 // halfFrames are the two sectors of a state, each by its place.
@@ -201,8 +206,8 @@ func slowRecover(d impl.Disk) ([]int, int, bool) {
 		return s
 	}
 	root := read(0)
-	epoch := int(root[3])<<8 + int(root[4])
-	if epoch > 60000 || root != rootFrame(epoch) {
+	epoch, long := int(root[3])<<8+int(root[4]), int(root[5])
+	if epoch > 60000 || long > 16 || root != rootWith(epoch, root[6:6+long]) {
 		return nil, 0, false
 	}
 	first := 1 + epoch%2*2
@@ -319,8 +324,11 @@ func notFramesAt(f impl.Frame) []string {
 		}
 	}
 	for n := range 17 {
-		if n != len(f.Body) {
+		if f.Kind != 4 && n != len(f.Body) { // a root may have any Body
 			l = append(l, slowSector(f.Kind, f.At, f.Epoch, n, padded(textOf(n, n)), "\x00\x00"), slowSector(f.Kind, f.At, f.Epoch, n, padded(""), "\x00\x00"))
+		}
+		if n < 16 {
+			l = append(l, slowSector(f.Kind, f.At, f.Epoch, n, padded("")[1:]+"\x01", "\x00\x00"))
 		}
 	}
 	return l
